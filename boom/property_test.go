@@ -163,7 +163,7 @@ func checkChain(c api.BoomChain) api.Errno {
 	return api.OK
 }
 
-// leftOf returns the cells on the left and on the right of a stick that leads from one corner to another one, -1 for what is beyond the edge.
+// besideStick returns the cells on the left and on the right of a stick that leads from one corner to another one, -1 for what is beyond the edge.
 func besideStick(from, to [2]int) (left, right int) {
 	cell := func(x, y int) int {
 		if x < 0 || x > 7 || y < 0 || y > 7 {
@@ -370,7 +370,7 @@ func fromNext(c api.BoomChain) api.BoomChain {
 	return chain(at[0], at[1], c.Sticks[1:]+c.Sticks[:1])
 }
 
-// grown returns a chain that is changed at so many corners and sticks: of two sticks round a cell the other two, of one the other three, or the other way round.
+// grown returns a chain that is changed so many times at random, each time at one cell: one of its sticks gives way to the three others, two to the two others, or three to the one other, if the chain stays valid.
 func grown(r *rand.Rand, c api.BoomChain, changes int) api.BoomChain {
 	for range changes {
 		c = fromNext(c)
